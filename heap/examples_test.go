@@ -1,0 +1,49 @@
+package heap_test
+
+import (
+	"testing"
+
+	"collector/api"
+)
+
+// The document's examples, as far as they need no collection.
+func TestExamples(t *testing.T) {
+	h := made(t, 4, 4, 0)
+	told := func(what string, x int, e api.Errno, want int, wantErr api.Errno) {
+		t.Helper()
+		if x != want || e != wantErr {
+			t.Errorf("%s = %d, %d, want %d, %d", what, x, e, want, wantErr)
+		}
+	}
+	x, e := h.Alloc(3, false)
+	told("Alloc(3, false)", x, e, 1048576, api.OK)
+	x, e = h.Size(1048576 + 23)
+	told("Size(1048576 + 23)", x, e, 3, api.OK)
+	x, e = h.Size(1048576 + 24)
+	told("Size(1048576 + 24)", x, e, 0, api.ErrObject)
+	x, e = h.Alloc(3, false)
+	told("Alloc(3, false)", x, e, 1048600, api.OK)
+	x, e = h.Alloc(5, false)
+	told("Alloc(5, false)", x, e, 1048832, api.OK)
+	x, e = h.Size(1048832)
+	told("Size(1048832)", x, e, 6, api.OK)
+	x, e = h.Load(1048576)
+	told("Load(1048576)", x, e, 0, api.OK)
+	told("Store(1048576, 1048605)", 0, h.Store(1048576, 1048600+5), 0, api.OK)
+	x, e = h.Load(1048576)
+	told("Load(1048576)", x, e, 1048605, api.OK)
+	x, e = h.Load(1048577)
+	told("Load(1048577)", x, e, 0, api.ErrAlign)
+	told("Free(1048577)", 0, h.Free(1048577), 0, api.ErrBase)
+	x, e = h.Alloc(0, true)
+	told("Alloc(0, true)", x, e, 0, api.ErrSize)
+	x, e = h.Alloc(129, true)
+	told("Alloc(129, true)", x, e, 0, api.ErrSize)
+
+	h = made(t, 1, 1, 0)
+	for k := 0; k < 16; k++ {
+		h.Push(laid(t, h, 2, true))
+	}
+	x, e = h.Alloc(2, true)
+	told("Alloc(2, true), the seventeenth", x, e, 0, api.ErrFull)
+}

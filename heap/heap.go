@@ -1,0 +1,129 @@
+// Package heap: a heap of words that clears itself: see DOC.md.
+package heap
+
+import "collector/api"
+
+// Heap is a heap of words. Inside it words have numbers, from 0 on: word w lies at First + w * wordBytes.
+type Heap struct {
+	pages  []page
+	words  []int
+	begins []bool // by word: an object begins there
+}
+
+// New: a heap of so many pages, whose collections have a list of work of so much room (P3), and that collects ahead of an object with which more than trig words would have been laid since the last collection (P9; 0: never for that). ErrArg.
+//
+// Neither room nor trig is kept: only collections need them, and there are none yet.
+func New(pages int, room int, trig int) (*Heap, api.Errno) {
+	if pages < 1 || pages > api.MaxPages {
+		return nil, api.ErrArg
+	}
+	if room < 1 || room > api.MaxStack {
+		return nil, api.ErrArg
+	}
+	if trig < 0 || trig > api.MaxTrig {
+		return nil, api.ErrArg
+	}
+	h := &Heap{
+		pages:  make([]page, pages),
+		words:  make([]int, pages*api.PageWords),
+		begins: make([]bool, pages*api.PageWords),
+	}
+	return h, api.OK
+}
+
+// Collect: what no root leads to goes (P8). Not built yet.
+func (h *Heap) Collect() {}
+
+// Alloc: a new object of at least n words, all 0 (atomic: its words are no addresses): its first address. Errors: ErrSize; ErrFull.
+func (h *Heap) Alloc(n int, atomic bool) (int, api.Errno) {
+	if n < 1 || n > len(h.words) {
+		return 0, api.ErrSize
+	}
+	size := sizeFor(n)
+	w := h.roomFor(size, atomic)
+	if w == none {
+		return 0, api.ErrFull
+	}
+	h.lay(w, size, atomic)
+	return addressOf(w), api.OK
+}
+
+// Free: the object that begins at a goes. Errors: ErrObject; ErrBase.
+func (h *Heap) Free(a int) api.Errno {
+	w := h.objectAt(a)
+	if w == none {
+		return api.ErrObject
+	}
+	if addressOf(w) != a {
+		return api.ErrBase
+	}
+	h.drop(w)
+	return api.OK
+}
+
+// Base: the first address of the object in which a lies. Error: ErrObject.
+func (h *Heap) Base(a int) (int, api.Errno) {
+	w := h.objectAt(a)
+	if w == none {
+		return 0, api.ErrObject
+	}
+	return addressOf(w), api.OK
+}
+
+// Size: how many words the object has in which a lies. Error: ErrObject.
+func (h *Heap) Size(a int) (int, api.Errno) {
+	w := h.objectAt(a)
+	if w == none {
+		return 0, api.ErrObject
+	}
+	return h.pages[w/api.PageWords].size, api.OK
+}
+
+// Load: the word at a. Errors: ErrAlign; ErrObject.
+func (h *Heap) Load(a int) (int, api.Errno) {
+	e := h.checkWord(a)
+	if e != api.OK {
+		return 0, e
+	}
+	return h.words[wordAt(a)], api.OK
+}
+
+// Store: the word at a is w from now on. Errors: ErrAlign; ErrObject.
+func (h *Heap) Store(a int, w int) api.Errno {
+	e := h.checkWord(a)
+	if e != api.OK {
+		return e
+	}
+	h.words[wordAt(a)] = w
+	return api.OK
+}
+
+// checkWord: what stands against reading or writing a word at a.
+func (h *Heap) checkWord(a int) api.Errno {
+	if a%wordBytes != 0 {
+		return api.ErrAlign
+	}
+	if h.objectAt(a) == none {
+		return api.ErrObject
+	}
+	return api.OK
+}
+
+// Push, Pop, Set: the stack of roots. Errors: ErrRoots; ErrEmpty; ErrRoot. Not built yet.
+func (h *Heap) Push(w int) api.Errno { return 0 }
+
+func (h *Heap) Pop() (int, api.Errno) { return 0, 0 }
+
+func (h *Heap) Set(i int, w int) api.Errno { return 0 }
+
+// Sweep tidies at most n runs of pages (P11). Not built yet.
+func (h *Heap) Sweep(n int) {}
+
+// Walk: the first addresses of all objects, rising, in a fresh list. Not built yet.
+func (h *Heap) Walk() []int { return nil }
+
+// Black: the pages on which no new objects with addresses are laid, rising, in a fresh list. Not built yet.
+func (h *Heap) Black() []int { return nil }
+
+// Counts: what there is, and what there was. Not built yet.
+func (h *Heap) Counts() api.Counts { return api.Counts{} }
