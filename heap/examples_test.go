@@ -6,7 +6,7 @@ import (
 	"collector/api"
 )
 
-// The document's examples, as far as they need no collection.
+// The document's examples, as far as they need no collection by Alloc and no Walk.
 func TestExamples(t *testing.T) {
 	h := made(t, 4, 4, 0)
 	told := func(what string, x int, e api.Errno, want int, wantErr api.Errno) {
@@ -35,6 +35,32 @@ func TestExamples(t *testing.T) {
 	x, e = h.Load(1048577)
 	told("Load(1048577)", x, e, 0, api.ErrAlign)
 	told("Free(1048577)", 0, h.Free(1048577), 0, api.ErrBase)
+
+	told("Push(1048580)", 0, h.Push(1048580), 0, api.OK)
+	h.Collect()
+	only(t, h, 4, "Collect()", 1048576, 1048600)
+	told("Push(1048576 + 2 * 256)", 0, h.Push(1048576+2*256), 0, api.OK)
+	h.Collect()
+	isBlack(t, h, "Collect()", 2)
+	x, e = h.Alloc(32, false)
+	if e != api.OK || x != 1048576+256 && x != 1048576+3*256 {
+		t.Errorf("Alloc(32, false) = %d, %d, want page 1 or 3", x, e)
+	}
+	x, e = h.Alloc(32, true)
+	if e != api.OK || x%256 != 0 || x < 1048576+256 || x > 1048576+3*256 {
+		t.Errorf("Alloc(32, true) = %d, %d, want a page without objects", x, e)
+	}
+	x, e = h.Pop()
+	told("Pop()", x, e, 1048576+2*256, api.OK)
+	x, e = h.Pop()
+	told("Pop()", x, e, 1048580, api.OK)
+	x, e = h.Pop()
+	told("Pop()", x, e, 0, api.ErrEmpty)
+	h.Collect()
+	only(t, h, 4, "Collect(), no root")
+	told("Counts().Objects", h.Counts().Objects, 0, 0, 0)
+	told("Set(0, 1)", 0, h.Set(0, 1), 0, api.ErrRoot)
+
 	x, e = h.Alloc(0, true)
 	told("Alloc(0, true)", x, e, 0, api.ErrSize)
 	x, e = h.Alloc(129, true)

@@ -8,11 +8,17 @@ type Heap struct {
 	pages  []page
 	words  []int
 	begins []bool // by word: an object begins there
+	black  []bool // by page
+	roots  []int
+
+	room        int // the entries of a collection's list of work
+	collections int
+	again       int // of the last collection
 }
 
 // New: a heap of so many pages, whose collections have a list of work of so much room (P3), and that collects ahead of an object with which more than trig words would have been laid since the last collection (P9; 0: never for that). ErrArg.
 //
-// Neither room nor trig is kept: only collections need them, and there are none yet.
+// trig is not kept: collections ahead of an object are not built yet.
 func New(pages int, room int, trig int) (*Heap, api.Errno) {
 	if pages < 1 || pages > api.MaxPages {
 		return nil, api.ErrArg
@@ -27,14 +33,13 @@ func New(pages int, room int, trig int) (*Heap, api.Errno) {
 		pages:  make([]page, pages),
 		words:  make([]int, pages*api.PageWords),
 		begins: make([]bool, pages*api.PageWords),
+		black:  make([]bool, pages),
+		room:   room,
 	}
 	return h, api.OK
 }
 
-// Collect: what no root leads to goes (P8). Not built yet.
-func (h *Heap) Collect() {}
-
-// Alloc: a new object of at least n words, all 0 (atomic: its words are no addresses): its first address. Errors: ErrSize; ErrFull.
+// Alloc: a new object of at least n words, all 0 (atomic: its words are no addresses): its first address. Errors: ErrSize; ErrFull. Collections ahead of it (P9) are not built yet.
 func (h *Heap) Alloc(n int, atomic bool) (int, api.Errno) {
 	if n < 1 || n > len(h.words) {
 		return 0, api.ErrSize
@@ -108,22 +113,3 @@ func (h *Heap) checkWord(a int) api.Errno {
 	}
 	return api.OK
 }
-
-// Push, Pop, Set: the stack of roots. Errors: ErrRoots; ErrEmpty; ErrRoot. Not built yet.
-func (h *Heap) Push(w int) api.Errno { return 0 }
-
-func (h *Heap) Pop() (int, api.Errno) { return 0, 0 }
-
-func (h *Heap) Set(i int, w int) api.Errno { return 0 }
-
-// Sweep tidies at most n runs of pages (P11). Not built yet.
-func (h *Heap) Sweep(n int) {}
-
-// Walk: the first addresses of all objects, rising, in a fresh list. Not built yet.
-func (h *Heap) Walk() []int { return nil }
-
-// Black: the pages on which no new objects with addresses are laid, rising, in a fresh list. Not built yet.
-func (h *Heap) Black() []int { return nil }
-
-// Counts: what there is, and what there was. Not built yet.
-func (h *Heap) Counts() api.Counts { return api.Counts{} }

@@ -116,6 +116,124 @@ func zeros(t *testing.T, h *heap.Heap, a int) {
 	}
 }
 
+func pushed(t *testing.T, h *heap.Heap, w int) {
+	t.Helper()
+	if e := h.Push(w); e != api.OK {
+		t.Fatalf("P7: Push(%d) = %d", w, e)
+	}
+}
+
+// rootsOf: all roots; they are taken off and laid back.
+func rootsOf(t *testing.T, h *heap.Heap) []int {
+	t.Helper()
+	var l []int
+	for {
+		w, e := h.Pop()
+		if e != api.OK {
+			break
+		}
+		l = append(l, w)
+	}
+	slices.Reverse(l)
+	for _, w := range l {
+		pushed(t, h, w)
+	}
+	return l
+}
+
+// state: all that is told of a heap, without Used and Unswept.
+func state(t *testing.T, h *heap.Heap, pages int) []int {
+	t.Helper()
+	c := h.Counts()
+	l := shown(h, pages)
+	l = append(l, rootsOf(t, h)...)
+	l = append(l, -7) // lest a root and a black page could stand for one another
+	l = append(l, h.Black()...)
+	return append(l, c.Objects, c.Words, c.Collections, c.Again)
+}
+
+// objectsOf: the first addresses of all objects, rising.
+func objectsOf(h *heap.Heap, pages int) []int {
+	var l []int
+	for a := api.First; a < end(pages); a += 8 {
+		if b, e := h.Base(a); e == api.OK && b == a {
+			l = append(l, a)
+		}
+	}
+	return l
+}
+
+// only: these objects there are and no others; Counts says so, too.
+func only(t *testing.T, h *heap.Heap, pages int, call string, want ...int) {
+	t.Helper()
+	want = slices.Sorted(slices.Values(want))
+	got := objectsOf(h, pages)
+	if !slices.Equal(got, want) {
+		t.Fatalf("P8: %s: there are objects at %v, want %v", call, got, want)
+	}
+	words := 0
+	for _, a := range want {
+		size, _ := h.Size(a)
+		words += size
+	}
+	if c := h.Counts(); c.Objects != len(want) || c.Words != words {
+		t.Fatalf("P12: %s: %+v, want %d objects of %d words", call, c, len(want), words)
+	}
+}
+
+// busy: on how many pages objects lie.
+func busy(h *heap.Heap, pages int) int {
+	n := 0
+	for p := 0; p < pages; p++ {
+		for a := end(p); a < end(p+1); a += 8 {
+			if _, e := h.Base(a); e == api.OK {
+				n++
+				break
+			}
+		}
+	}
+	return n
+}
+
+// bounds: what P12 says of Used and Unswept at any time.
+func bounds(t *testing.T, h *heap.Heap, pages int, call string) {
+	t.Helper()
+	c := h.Counts()
+	n := busy(h, pages)
+	if c.Used < n || c.Used > pages || c.Unswept < 0 || c.Unswept > c.Used || c.Used-n > c.Unswept {
+		t.Fatalf("P12: %s: %+v, where objects lie on %d pages of %d", call, c, n, pages)
+	}
+	if c.Collections == 0 && (c.Unswept != 0 || c.Again != 0) {
+		t.Fatalf("P11, P12: %s, ahead of the first collection: %+v", call, c)
+	}
+}
+
+// collected: a collection, and what P11 and P12 say of it.
+func collected(t *testing.T, h *heap.Heap, pages, room int) {
+	t.Helper()
+	before := h.Counts()
+	h.Collect()
+	c := h.Counts()
+	if c.Collections != before.Collections+1 {
+		t.Fatalf("P12: Collect: from %+v to %+v", before, c)
+	}
+	if c.Unswept != c.Used {
+		t.Fatalf("P11: behind Collect not all pages in use are unswept: %+v", c)
+	}
+	if c.Again < 0 || c.Again > c.Objects+1 || c.Objects <= room && c.Again != 0 {
+		t.Fatalf("P12: Again, with room %d: %+v", room, c)
+	}
+	bounds(t, h, pages, "behind Collect")
+}
+
+// isBlack: these pages are black and no others.
+func isBlack(t *testing.T, h *heap.Heap, call string, want ...int) {
+	t.Helper()
+	if l := h.Black(); !slices.Equal(l, want) {
+		t.Fatalf("P8: %s: Black() = %v, want %v", call, l, want)
+	}
+}
+
 // table is an object with a root in it whose words name other objects: what it names stays, even if Alloc collects.
 type table struct {
 	h  *heap.Heap
@@ -172,25 +290,54 @@ func numbers(pages int) []int {
 	return l
 }
 
-// answers notes what a heap answers to a series of calls that hangs on seed alone. No more than 400 words are laid.
+// answers notes what a heap answers to a series of calls that hangs on seed alone, but for Again. No more than 400 words are laid.
 func answers(h *heap.Heap, seed int) []int {
 	var l, at []int
 	r := source(seed)
-	for k := 0; k < 200; k++ {
-		if k%5 == 0 {
+	for k := 0; k < 300; k++ {
+		if k%6 == 0 {
 			a, e := h.Alloc(1+r.below(8), r.below(2) == 0)
 			l = append(l, a, int(e))
 			at = append(at, a)
 		}
-		l = append(l, step(h, &r, at[r.below(len(at))])...)
+		x := at[r.below(len(at))]
+		if r.below(3) == 0 {
+			l = append(l, keepStep(h, &r, x)...)
+		} else {
+			l = append(l, step(h, &r, x)...)
+		}
 	}
 	return l
+}
+
+// keepStep: one call that has to do with what is kept, and its answer.
+func keepStep(h *heap.Heap, r *source, a int) []int {
+	x := a + r.below(400) - 100
+	switch r.below(9) {
+	case 0, 1:
+		return []int{int(h.Push(a + r.below(8)))}
+	case 2:
+		return []int{int(h.Push(x))}
+	case 3:
+		w, e := h.Pop()
+		return []int{w, int(e)}
+	case 4:
+		return []int{int(h.Set(r.below(6), x))}
+	case 5:
+		h.Collect()
+	case 6:
+		h.Sweep(r.below(5) - 1)
+	case 7:
+		return h.Black()
+	}
+	c := h.Counts()
+	return []int{c.Objects, c.Words, c.Collections, c.Used, c.Unswept}
 }
 
 // step: one call at an address in or about an object, and its answer.
 func step(h *heap.Heap, r *source, a int) []int {
 	x := a + r.below(70) - 3
-	switch r.below(7) {
+	switch r.below(8) {
 	case 0:
 		return []int{int(h.Free(a))}
 	case 1:
@@ -207,6 +354,8 @@ func step(h *heap.Heap, r *source, a int) []int {
 	case 5:
 		w, e := h.Load(x)
 		return []int{w, int(e)}
+	case 6:
+		return []int{int(h.Store(a, x))}
 	}
 	return []int{int(h.Store(a, 1+r.below(1000)))}
 }

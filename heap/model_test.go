@@ -17,6 +17,7 @@ type model struct {
 	pages   int
 	objects []object
 	gone    bool
+	black   []bool // by page; nil: none is
 }
 
 // find: which object lies at a, or -1.
@@ -45,7 +46,7 @@ func (m *model) rooms(size int, atomic bool) []int {
 	for p := 0; p < m.pages; p++ {
 		start := api.First + p*api.PageBytes
 		if size > 16 {
-			if m.bare(p, size/32) {
+			if m.bare(p, size/32, atomic) {
 				bare = append(bare, start)
 			}
 			continue
@@ -53,9 +54,9 @@ func (m *model) rooms(size int, atomic bool) []int {
 		used, o := m.holds(p)
 		for i := 0; i < 32/size; i++ {
 			a := start + 8*size*i
-			if !used {
+			if m.bare(p, 1, atomic) {
 				bare = append(bare, a)
-			} else if o.size == size && o.atomic == atomic && m.find(a) < 0 {
+			} else if used && o.size == size && o.atomic == atomic && m.find(a) < 0 {
 				shared = append(shared, a)
 			}
 		}
@@ -63,10 +64,13 @@ func (m *model) rooms(size int, atomic bool) []int {
 	return append(shared, bare...)
 }
 
-// bare: whether so many pages from p on are without objects.
-func (m *model) bare(p, count int) bool {
+// bare: whether so many pages from p on are without objects, and room for one of that kind.
+func (m *model) bare(p, count int, atomic bool) bool {
 	for q := p; q < p+count; q++ {
 		if used, _ := m.holds(q); used || q >= m.pages {
+			return false
+		}
+		if m.black != nil && m.black[q] && !atomic {
 			return false
 		}
 	}

@@ -159,14 +159,14 @@ func TestHeapsSideBySide(t *testing.T) {
 	for seed := 1; seed <= 10; seed++ {
 		h := made(t, 48, 4, 0)
 		alone := answers(h, seed)
-		seen := shown(h, 48)
+		seen := state(t, h, 48)
 		other := made(t, 48, 4, 0)
 		answers(other, seed+100)
-		if again := shown(h, 48); !slices.Equal(seen, again) {
+		if again := state(t, h, 48); !slices.Equal(seen, again) {
 			t.Fatalf("P2: what was done to one heap shows in another")
 		}
 		g := made(t, 48, 4, 0)
-		if !slices.Equal(alone, answers(g, seed)) || !slices.Equal(seen, shown(g, 48)) {
+		if !slices.Equal(alone, answers(g, seed)) || !slices.Equal(seen, state(t, g, 48)) || h.Counts() != g.Counts() {
 			t.Fatalf("P2: the same calls to another heap have other answers (seed %d)", seed)
 		}
 	}

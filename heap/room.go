@@ -10,13 +10,13 @@ func (h *Heap) roomFor(size int, atomic bool) int {
 			return w
 		}
 	}
-	return h.emptyRoom(pagesFor(size))
+	return h.emptyRoom(pagesFor(size), atomic)
 }
 
 // sharedRoom: the lowest free place on a page with objects of that size and kind, or none.
 func (h *Heap) sharedRoom(size int, atomic bool) int {
 	for p, g := range h.pages {
-		if g.size != size || g.atomic != atomic {
+		if g.size != size || g.atomic != atomic || !h.holds(p) {
 			continue
 		}
 		w := h.freePlace(p, size)
@@ -38,11 +38,11 @@ func (h *Heap) freePlace(p int, size int) int {
 	return none
 }
 
-// emptyRoom: the first word of the lowest so many pages without objects, side by side, or none.
-func (h *Heap) emptyRoom(count int) int {
+// emptyRoom: the first word of the lowest so many pages side by side that an object of that kind can have to itself, or none.
+func (h *Heap) emptyRoom(count int, atomic bool) int {
 	run := 0
-	for p, g := range h.pages {
-		if g.size != 0 {
+	for p := range h.pages {
+		if !h.freeFor(p, atomic) {
 			run = 0
 			continue
 		}
@@ -54,10 +54,20 @@ func (h *Heap) emptyRoom(count int) int {
 	return none
 }
 
+// freeFor: whether page p is without objects and may be taken for one of that kind. Whatever is laid on a black page the word that made it black may keep for good: an atomic object keeps no more than itself then.
+func (h *Heap) freeFor(p int, atomic bool) bool {
+	if h.black[p] && !atomic {
+		return false
+	}
+	return !h.holds(p)
+}
+
 // lay lays an object where there is room for it. Its words are cleared here, not when an object goes: what went may have left any words.
 func (h *Heap) lay(w int, size int, atomic bool) {
 	first := w / api.PageWords
 	for k := 0; k < pagesFor(size); k++ {
+		// A greater object that has gone may have other pages beside this one, which must not be taken for the new object's.
+		h.tidy(first + k)
 		h.pages[first+k] = page{size: size, atomic: atomic, back: k}
 	}
 	for k := 0; k < size; k++ {
@@ -66,26 +76,8 @@ func (h *Heap) lay(w int, size int, atomic bool) {
 	h.begins[w] = true
 }
 
-// drop takes away the object that begins at word w. A page on which nothing is left is free for every size and kind again.
+// drop takes away the object that begins at word w.
 func (h *Heap) drop(w int) {
 	h.begins[w] = false
-	first := w / api.PageWords
-	if h.anyBegins(first) {
-		return
-	}
-	count := pagesFor(h.pages[first].size)
-	for k := 0; k < count; k++ {
-		h.pages[first+k] = page{}
-	}
-}
-
-// anyBegins: whether an object begins on page p.
-func (h *Heap) anyBegins(p int) bool {
-	start := p * api.PageWords
-	for w := start; w < start+api.PageWords; w++ {
-		if h.begins[w] {
-			return true
-		}
-	}
-	return false
+	h.tidy(w / api.PageWords)
 }
