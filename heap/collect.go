@@ -24,6 +24,7 @@ func (h *Heap) Collect() {
 	}
 	h.begins = m.stays
 	h.black = m.black
+	h.since = 0
 	h.collections++
 	h.again = again
 	h.leaveUnswept()

@@ -306,6 +306,14 @@ func TestListOfWorkIsFull(t *testing.T) {
 				if c := h.Counts(); c.Again < 1 {
 					t.Errorf("P12: room %d: the list of work cannot have held this: %+v", room, c)
 				}
+				// There is no room for so much: Alloc collects.
+				if _, e := h.Alloc(48*32, true); e != api.ErrFull {
+					t.Fatalf("P4: Alloc of all words = %d", e)
+				}
+				only(t, h, 48, fmt.Sprintf("room %d, a collection by Alloc", room), want...)
+				if c := h.Counts(); c.Again < 1 || c.Again > c.Objects+1 || c.Collections != 2 {
+					t.Errorf("P12: room %d: the list of work cannot have held this, by Alloc either: %+v", room, c)
+				}
 				h.Set(0, chain[n-1])
 				collected(t, h, 48, room)
 				if c := h.Counts(); c.Objects != room+1 {

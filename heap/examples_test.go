@@ -6,7 +6,7 @@ import (
 	"collector/api"
 )
 
-// The document's examples, as far as they need no collection by Alloc and no Walk.
+// The document's examples.
 func TestExamples(t *testing.T) {
 	h := made(t, 4, 4, 0)
 	told := func(what string, x int, e api.Errno, want int, wantErr api.Errno) {
@@ -39,6 +39,7 @@ func TestExamples(t *testing.T) {
 	told("Push(1048580)", 0, h.Push(1048580), 0, api.OK)
 	h.Collect()
 	only(t, h, 4, "Collect()", 1048576, 1048600)
+	walked(t, h, "Collect()", 1048576, 1048600)
 	told("Push(1048576 + 2 * 256)", 0, h.Push(1048576+2*256), 0, api.OK)
 	h.Collect()
 	isBlack(t, h, "Collect()", 2)
@@ -58,6 +59,7 @@ func TestExamples(t *testing.T) {
 	told("Pop()", x, e, 0, api.ErrEmpty)
 	h.Collect()
 	only(t, h, 4, "Collect(), no root")
+	walked(t, h, "Collect(), no root")
 	told("Counts().Objects", h.Counts().Objects, 0, 0, 0)
 	told("Set(0, 1)", 0, h.Set(0, 1), 0, api.ErrRoot)
 
@@ -67,9 +69,21 @@ func TestExamples(t *testing.T) {
 	told("Alloc(129, true)", x, e, 0, api.ErrSize)
 
 	h = made(t, 1, 1, 0)
+	for k := 0; k < 17; k++ {
+		laid(t, h, 2, true)
+	}
+	told("Counts().Objects", h.Counts().Objects, 0, 1, 0)
+	told("Counts().Collections", h.Counts().Collections, 0, 1, 0)
+	h = made(t, 1, 1, 0)
 	for k := 0; k < 16; k++ {
 		h.Push(laid(t, h, 2, true))
 	}
 	x, e = h.Alloc(2, true)
 	told("Alloc(2, true), the seventeenth", x, e, 0, api.ErrFull)
+
+	h = made(t, 2, 1, 10)
+	for _, want := range []int{0, 0, 1} {
+		laid(t, h, 4, false)
+		told("Counts().Collections", h.Counts().Collections, 0, want, 0)
+	}
 }

@@ -12,13 +12,13 @@ type Heap struct {
 	roots  []int
 
 	room        int // the entries of a collection's list of work
+	trig        int // how many words may be laid between collections; 0: any number
+	since       int // the words laid since the last collection
 	collections int
 	again       int // of the last collection
 }
 
 // New: a heap of so many pages, whose collections have a list of work of so much room (P3), and that collects ahead of an object with which more than trig words would have been laid since the last collection (P9; 0: never for that). ErrArg.
-//
-// trig is not kept: collections ahead of an object are not built yet.
 func New(pages int, room int, trig int) (*Heap, api.Errno) {
 	if pages < 1 || pages > api.MaxPages {
 		return nil, api.ErrArg
@@ -35,21 +35,23 @@ func New(pages int, room int, trig int) (*Heap, api.Errno) {
 		begins: make([]bool, pages*api.PageWords),
 		black:  make([]bool, pages),
 		room:   room,
+		trig:   trig,
 	}
 	return h, api.OK
 }
 
-// Alloc: a new object of at least n words, all 0 (atomic: its words are no addresses): its first address. Errors: ErrSize; ErrFull. Collections ahead of it (P9) are not built yet.
+// Alloc: a new object of at least n words, all 0 (atomic: its words are no addresses): its first address. Ahead of it there may be a collection, also where ErrFull is the answer (P9). Errors: ErrSize; ErrFull.
 func (h *Heap) Alloc(n int, atomic bool) (int, api.Errno) {
 	if n < 1 || n > len(h.words) {
 		return 0, api.ErrSize
 	}
 	size := sizeFor(n)
-	w := h.roomFor(size, atomic)
+	w := h.findRoom(size, atomic)
 	if w == none {
 		return 0, api.ErrFull
 	}
 	h.lay(w, size, atomic)
+	h.since += size
 	return addressOf(w), api.OK
 }
 

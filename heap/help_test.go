@@ -149,6 +149,8 @@ func state(t *testing.T, h *heap.Heap, pages int) []int {
 	l = append(l, rootsOf(t, h)...)
 	l = append(l, -7) // lest a root and a black page could stand for one another
 	l = append(l, h.Black()...)
+	l = append(l, -7)
+	l = append(l, h.Walk()...)
 	return append(l, c.Objects, c.Words, c.Collections, c.Again)
 }
 
@@ -163,13 +165,16 @@ func objectsOf(h *heap.Heap, pages int) []int {
 	return l
 }
 
-// only: these objects there are and no others; Counts says so, too.
+// only: these objects there are and no others; Walk and Counts say so, too.
 func only(t *testing.T, h *heap.Heap, pages int, call string, want ...int) {
 	t.Helper()
 	want = slices.Sorted(slices.Values(want))
 	got := objectsOf(h, pages)
 	if !slices.Equal(got, want) {
 		t.Fatalf("P8: %s: there are objects at %v, want %v", call, got, want)
+	}
+	if l := h.Walk(); !slices.Equal(l, want) || cap(l) != len(l) {
+		t.Fatalf("P10, P13: %s: Walk() = %v (capacity %d), want %v", call, l, cap(l), want)
 	}
 	words := 0
 	for _, a := range want {
@@ -313,7 +318,7 @@ func answers(h *heap.Heap, seed int) []int {
 // keepStep: one call that has to do with what is kept, and its answer.
 func keepStep(h *heap.Heap, r *source, a int) []int {
 	x := a + r.below(400) - 100
-	switch r.below(9) {
+	switch r.below(10) {
 	case 0, 1:
 		return []int{int(h.Push(a + r.below(8)))}
 	case 2:
@@ -329,6 +334,8 @@ func keepStep(h *heap.Heap, r *source, a int) []int {
 		h.Sweep(r.below(5) - 1)
 	case 7:
 		return h.Black()
+	case 8:
+		return h.Walk()
 	}
 	c := h.Counts()
 	return []int{c.Objects, c.Words, c.Collections, c.Used, c.Unswept}

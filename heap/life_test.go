@@ -50,15 +50,17 @@ func (m *model) followed(roots []int, stays []bool) []int {
 
 // life tells a heap a long series of calls of all sorts and holds its answers against the model, which knows nothing of what is swept.
 type life struct {
-	t     *testing.T
-	h     *heap.Heap
-	m     model
-	r     source
-	room  int
-	roots []int
+	t          *testing.T
+	h          *heap.Heap
+	m          model
+	r          source
+	room, trig int
+	roots      []int
 
+	since                        int        // the words laid since the last collection
 	counts                       api.Counts // as last told
 	fulls, lost, kept, blackened int
+	due, helped, vain            int // collections ahead of an object: by trig; where there was no room, and then there was; and then there was none
 }
 
 func TestLifeAgainstModel(t *testing.T) {
@@ -69,7 +71,8 @@ func TestLifeAgainstModel(t *testing.T) {
 			if seed <= 3 {
 				room = seed
 			}
-			x := life{t: t, h: made(t, c.pages, room, 0), m: model{pages: c.pages, black: make([]bool, c.pages)}, r: source(1000*c.pages + seed), room: room}
+			trig := []int{0, 0, 1, 4096, 10, 40, 150, 600}[seed-1]
+			x := life{t: t, h: made(t, c.pages, room, trig), m: model{pages: c.pages, black: make([]bool, c.pages)}, r: source(1000*c.pages + seed), room: room, trig: trig}
 			for i := 0; i < c.steps; i++ {
 				x.step(c.most)
 				x.count()
@@ -81,10 +84,16 @@ func TestLifeAgainstModel(t *testing.T) {
 			all.lost += x.lost
 			all.kept += x.kept
 			all.blackened += x.blackened
+			all.due += x.due
+			all.helped += x.helped
+			all.vain += x.vain
 		}
 	}
 	if all.fulls == 0 || all.lost == 0 || all.kept == 0 || all.blackened == 0 {
 		t.Errorf("the series are too tame: %d times full, %d objects gone and %d kept, %d pages black", all.fulls, all.lost, all.kept, all.blackened)
+	}
+	if all.due == 0 || all.helped == 0 || all.vain == 0 || all.fulls == all.vain {
+		t.Errorf("the series are too tame: ahead of objects %d collections by trig, %d that made room and %d that made none; %d times full", all.due, all.helped, all.vain, all.fulls)
 	}
 }
 
@@ -133,22 +142,33 @@ func (x *life) alloc(n int, atomic bool) {
 		return
 	}
 	size := sizeOf(n)
-	rooms := x.m.rooms(size, atomic)
-	if len(rooms) == 0 {
-		// Where there is no room Alloc is to collect by itself: behind this it has the same before it, whether it does so or not.
-		x.collect()
-		rooms = x.m.rooms(size, atomic)
+	collects := x.trig != 0 && x.since+size > x.trig
+	if collects {
+		x.due++
+		x.clear()
 	}
+	rooms := x.m.rooms(size, atomic)
+	if len(rooms) == 0 && !collects {
+		collects = true
+		x.clear()
+		rooms = x.m.rooms(size, atomic)
+		if len(rooms) == 0 {
+			x.vain++
+		} else {
+			x.helped++
+		}
+	}
+	stayed := len(x.m.objects)
 	a, e := x.h.Alloc(n, atomic)
+	if collects {
+		x.counted(stayed)
+	}
 	if len(rooms) == 0 {
 		x.fulls++
 		if a != 0 || e != api.ErrFull {
 			x.t.Fatalf("P4: Alloc(%d, %v) = %d, %d, want 0, ErrFull", n, atomic, a, e)
 		}
-		// A collection here finds nothing more to clear away, but it counts.
-		if c := x.h.Counts().Collections; c == x.counts.Collections+1 {
-			x.counts = x.h.Counts()
-		}
+		x.compare()
 		return
 	}
 	if e != api.OK || !slices.Contains(rooms, a) {
@@ -159,9 +179,26 @@ func (x *life) alloc(n int, atomic bool) {
 	}
 	zeros(x.t, x.h, a)
 	x.m.objects = append(x.m.objects, object{a, size, atomic, make([]int, size)})
+	x.since += size
+	if collects {
+		x.compare()
+	}
 	if x.r.below(2) == 0 {
 		x.name(a)
 	}
+}
+
+// counted: the last call made one collection, and so many objects stayed.
+func (x *life) counted(stayed int) {
+	x.t.Helper()
+	c := x.h.Counts()
+	if c.Collections != x.counts.Collections+1 {
+		x.t.Fatalf("P9, P12: one collection turned %+v to %+v", x.counts, c)
+	}
+	if c.Again < 0 || c.Again > stayed+1 || stayed <= x.room && c.Again != 0 {
+		x.t.Fatalf("P12: Again, with room %d, where %d objects stayed: %+v", x.room, stayed, c)
+	}
+	x.counts = c
 }
 
 // name lets a root, or a word of some object, name a new one, so that chains of them come about.
@@ -203,14 +240,24 @@ func (x *life) put(i, w int) {
 
 func (x *life) collect() {
 	x.t.Helper()
-	before := len(x.m.objects)
 	collected(x.t, x.h, x.m.pages, x.room)
+	x.clear()
+	x.counted(len(x.m.objects))
+	x.compare()
+}
+
+// clear: a collection of the model.
+func (x *life) clear() {
+	before := len(x.m.objects)
 	x.m.collect(x.roots)
-	x.counts = x.h.Counts()
+	x.since = 0
 	x.lost += before - len(x.m.objects)
 	x.kept += len(x.m.objects)
-	x.blackened += len(x.h.Black())
-	x.compare()
+	for _, b := range x.m.black {
+		if b {
+			x.blackened++
+		}
+	}
 }
 
 func (x *life) sweep(n int) {

@@ -10,7 +10,7 @@ import (
 	"collector/heap"
 )
 
-// P1: calls that are not built yet are called here, too: they end.
+// P1: every call ends, also where collections come by themselves.
 func TestEveryCallAtAllNumbers(t *testing.T) {
 	const pages = 3
 	for _, laidWords := range []int{0, 3, 16, 32, 64, 96} {
@@ -20,21 +20,9 @@ func TestEveryCallAtAllNumbers(t *testing.T) {
 		}
 		for _, x := range numbers(pages) {
 			for _, y := range []int{0, math.MinInt, math.MaxInt} {
-				g, _ := heap.New(pages, 2, 0)
-				g.Push(x)
-				g.Set(y, x)
-				g.Set(x, y)
-				g.Alloc(x, true)
-				g.Alloc(x, false)
-				g.Store(x, y)
-				g.Collect()
-				g.Sweep(x)
-				g.Pop()
-				g.Pop()
-				g.Walk()
-				g.Black()
-				g.Counts()
-				g.Free(x)
+				for _, trig := range []int{0, 1, 4096} {
+					callAll(made(t, pages, 2, trig), x, y)
+				}
 				heap.New(x, y, y)
 				heap.New(y, x, y)
 				heap.New(y, y, x)
@@ -44,6 +32,24 @@ func TestEveryCallAtAllNumbers(t *testing.T) {
 			atNumber(t, h, x, laidWords)
 		}
 	}
+}
+
+// callAll makes every call, with these numbers.
+func callAll(h *heap.Heap, x, y int) {
+	h.Push(x)
+	h.Set(y, x)
+	h.Set(x, y)
+	h.Alloc(x, true)
+	h.Alloc(x, false)
+	h.Store(x, y)
+	h.Collect()
+	h.Sweep(x)
+	h.Pop()
+	h.Pop()
+	h.Walk()
+	h.Black()
+	h.Counts()
+	h.Free(x)
 }
 
 // atNumber: what the calls answer at x in a heap with one object, from First on.

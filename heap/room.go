@@ -2,6 +2,19 @@ package heap
 
 import "collector/api"
 
+// findRoom: what roomFor answers, behind a collection if one is due by trig or there is no room without (P9). One is enough: a second in a row would clear nothing more away.
+func (h *Heap) findRoom(size int, atomic bool) int {
+	due := h.trig != 0 && h.since+size > h.trig
+	if !due {
+		w := h.roomFor(size, atomic)
+		if w != none {
+			return w
+		}
+	}
+	h.Collect()
+	return h.roomFor(size, atomic)
+}
+
 // roomFor: the word at which an object of that size and kind can be laid, or none. A shared page goes ahead of one without objects, and what is lower ahead of what is higher.
 func (h *Heap) roomFor(size int, atomic bool) int {
 	if size <= api.Small {

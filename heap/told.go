@@ -2,8 +2,14 @@ package heap
 
 import "collector/api"
 
-// Walk: the first addresses of all objects, rising, in a fresh list. Not built yet.
-func (h *Heap) Walk() []int { return nil }
+// Walk: the first addresses of all objects, rising, in a fresh list.
+func (h *Heap) Walk() []int {
+	list := numbersOf(h.begins)
+	for i := range list {
+		list[i] = addressOf(list[i])
+	}
+	return list
+}
 
 // Black: the pages on which no new objects with addresses are laid, rising, in a fresh list.
 func (h *Heap) Black() []int {
