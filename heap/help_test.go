@@ -165,6 +165,14 @@ func objectsOf(h *heap.Heap, pages int) []int {
 	return l
 }
 
+// walked: Walk tells these addresses, in a list without spare room.
+func walked(t *testing.T, h *heap.Heap, call string, want ...int) {
+	t.Helper()
+	if l := h.Walk(); !slices.Equal(l, want) || cap(l) != len(l) {
+		t.Fatalf("P10, P13: %s: Walk() = %v (capacity %d), want %v", call, l, cap(l), want)
+	}
+}
+
 // only: these objects there are and no others; Walk and Counts say so, too.
 func only(t *testing.T, h *heap.Heap, pages int, call string, want ...int) {
 	t.Helper()
@@ -173,9 +181,7 @@ func only(t *testing.T, h *heap.Heap, pages int, call string, want ...int) {
 	if !slices.Equal(got, want) {
 		t.Fatalf("P8: %s: there are objects at %v, want %v", call, got, want)
 	}
-	if l := h.Walk(); !slices.Equal(l, want) || cap(l) != len(l) {
-		t.Fatalf("P10, P13: %s: Walk() = %v (capacity %d), want %v", call, l, cap(l), want)
-	}
+	walked(t, h, call, want...)
 	words := 0
 	for _, a := range want {
 		size, _ := h.Size(a)

@@ -9,14 +9,6 @@ import (
 	"collector/heap"
 )
 
-// walked: Walk tells these addresses, in a list without spare room.
-func walked(t *testing.T, h *heap.Heap, call string, want ...int) {
-	t.Helper()
-	if l := h.Walk(); !slices.Equal(l, want) || cap(l) != len(l) {
-		t.Fatalf("P10, P13: %s: Walk() = %v (capacity %d), want %v", call, l, cap(l), want)
-	}
-}
-
 // P10: a heap without objects: a new one, and one from which all has gone, by whatever way.
 func TestWalkOfNothing(t *testing.T) {
 	for _, pages := range []int{1, 2, 47, 48} {
